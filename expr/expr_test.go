@@ -1,6 +1,7 @@
 package expr_test
 
 import (
+	"fmt"
 	"math"
 	"math/rand"
 	"slices"
@@ -58,6 +59,9 @@ func shownNumber(t int, n int64) string {
 		return "TRUE"
 	case t == api.TBool && n == 0:
 		return "FALSE"
+	}
+	if t < 0 || t > api.TTime {
+		return "?#" + strconv.FormatInt(n, 10)
 	}
 	return []string{"", "BOOL#", "INT#", "DINT#", "T#"}[t] + strconv.FormatInt(n, 10)
 }
@@ -164,13 +168,13 @@ func TestNamesOfEachByte(t *testing.T) {
 func checks(t *testing.T, x []api.Part, e api.Errno) {
 	t.Helper()
 	if got := expr.Check(x); got != e {
-		t.Errorf("Check(%.300v) = %d, want %d", x, got, e)
+		t.Errorf("Check(%.300s) = %d, want %d", fmt.Sprint(x), got, e)
 	}
 	if l, got := expr.Tokens(x); got != e || e != api.OK && len(l) > 0 || e == api.OK && len(l) == 0 {
-		t.Errorf("Tokens(%.300v) = %v, %d, want %d", x, l, got, e)
+		t.Errorf("Tokens(%.300s) = %v, %d, want %d", fmt.Sprint(x), l, got, e)
 	}
 	if s, got := expr.Names(x); got != e || e != api.OK && len(s) > 0 {
-		t.Errorf("Names(%.300v) = %q, %d, want %d", x, s, got, e)
+		t.Errorf("Names(%.300s) = %q, %d, want %d", fmt.Sprint(x), s, got, e)
 	}
 }
 

@@ -28,7 +28,7 @@ func Parse(l []api.Token, at int) (x []api.Part, next int, f api.Fault) {
 	if !read(0) {
 		return nil, 0, r.fault
 	}
-	if Check(r.parts) != api.OK { // Parts that were read are one expression, with names and numbers that may be: there are too many, or they are too deep.
+	if depth, _ := depthOf(r.parts); len(r.parts) > maxParts || depth > api.MaxDepth {
 		return nil, 0, api.Fault{At: at, Code: api.ErrLong}
 	}
 	return r.parts, r.at, api.Fault{}
@@ -75,20 +75,13 @@ func (r *reader) unary(read func(row int) bool) bool {
 func (r *reader) primary(read func(row int) bool) bool {
 	t := r.next()
 	switch t.Kind {
-	case api.KNum:
-		return r.number(t)
+	case api.KNum: // Whether it fits is asked of parts, by Check: a token that is handed in is a number, whatever it is.
+		r.at++
+		return r.add(api.Part{Kind: api.PNum, N: t.N, T: t.Type})
 	case api.KWord:
 		return r.word(t.S, read)
 	}
 	return r.within("(", ")", read)
-}
-
-func (r *reader) number(t api.Token) bool {
-	if !isNumber(t.Type, t.N) {
-		return r.refuse()
-	}
-	r.at++
-	return r.add(api.Part{Kind: api.PNum, N: t.N, T: t.Type})
 }
 
 // word reads what begins with the word s, which is the next token's.
@@ -126,10 +119,10 @@ func (r *reader) variable(name string, read func(row int) bool) bool {
 	return r.add(api.Part{Kind: api.PVar, S: name})
 }
 
-// field reads the word of a field of the block with that name.
+// field reads the word of a field of the block with that name. Its letters are not looked at: which words may be is asked of parts, by Check.
 func (r *reader) field(block string) bool {
 	t := r.next()
-	if t.Kind != api.KWord || !isWord(t.S) {
+	if t.Kind != api.KWord {
 		return r.refuse()
 	}
 	r.at++

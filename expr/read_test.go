@@ -36,7 +36,7 @@ func readsOf(t *testing.T, l []api.Token, at int, want []api.Part, next int) {
 func refuses(t *testing.T, l []api.Token, at, place int, code api.Errno) {
 	t.Helper()
 	if x, n, f := expr.Parse(l, at); len(x) != 0 || n != 0 || f != (api.Fault{At: place, Code: code}) {
-		t.Errorf("Parse(%.300q, %d) = %.300v, %d, %v, want {%d %d} alone", plain(l), at, x, n, f, place, code)
+		t.Errorf("Parse(%.300q, %d) = %.300s, %d, %v, want {%d %d} alone", plain(l), at, behind(x), n, f, place, code)
 	}
 }
 
@@ -195,8 +195,8 @@ func TestWhatMayNotStandThere(t *testing.T) {
 func TestParseOfOddTokens(t *testing.T) {
 	for _, s := range []string{"", "a", "aB", "5A", "A B", "É", "A\xff", strings.Repeat("A", 25), "+", "(", "true", "not", "to_int"} {
 		refuses(t, []api.Token{word(s)}, 0, 0, api.ErrExpr)
-		refuses(t, []api.Token{word("T"), sign("."), word(s)}, 0, 2, api.ErrExpr)
 		refuses(t, []api.Token{word("A"), sign("+"), word(s)}, 0, 2, api.ErrExpr)
+		refuses(t, []api.Token{word(s), sign("."), word("Q")}, 0, 0, api.ErrExpr)
 		readsOf(t, []api.Token{word("A"), word(s)}, 0, parts(variable("A")), 1)
 	}
 	for _, s := range []string{"A", "TRUE", "NOT", "AND", "TO_INT", "", "5", "((", "- "} {
@@ -218,25 +218,69 @@ func TestParseOfOddTokens(t *testing.T) {
 	}
 }
 
-// 6.1
+// 6.1, R2: a number is one, whatever it is, and whether its type fits it or not
 func TestParseOfNumbers(t *testing.T) {
 	for y := -2; y <= 7; y++ {
-		for _, edge := range []int64{0, 1, -32768, 32767, 65536, -2147483648, 2147483647, 4294967296, math.MinInt64 + 4, math.MaxInt64 - 4} {
-			for n := edge - 3; n <= edge+3; n++ {
-				l := []api.Token{numberOf(y, n)}
-				in := []api.Token{sign("("), sign("-"), numberOf(y, n), sign(")")}
-				if refNumber(y, n) {
-					readsOf(t, l, 0, parts(of(y, n)), 1)
-					readsOf(t, in, 0, parts(of(y, n), op(api.NNeg)), 4)
-				} else {
-					refuses(t, l, 0, 0, api.ErrExpr)
-					refuses(t, in, 0, 2, api.ErrExpr)
-				}
+		for _, edge := range []int64{0, 1, -32768, 32767, 65536, -2147483648, 2147483647, 4294967296, math.MinInt64 + 3, math.MaxInt64 - 3} {
+			for i := range int64(7) {
+				n := edge - 3 + i
+				one := numberOf(y, n)
+				readsOf(t, []api.Token{one}, 0, parts(of(y, n)), 1)
+				readsOf(t, []api.Token{sign("("), sign("-"), one, sign(")")}, 0, parts(of(y, n), op(api.NNeg)), 4)
+				readsOf(t, []api.Token{word("A"), sign("["), one, sign("]")}, 0, parts(of(y, n), index("A")), 4)
+				readsOf(t, []api.Token{word("TO_INT"), sign("("), one, sign(")"), one}, 0, parts(of(y, n), to(api.TInt)), 4)
+				readsOf(t, []api.Token{word("A"), one, sign("*"), one}, 1, parts(of(y, n), of(y, n), op(api.NMul)), 4)
+				refuses(t, []api.Token{word("A"), sign("."), one}, 0, 2, api.ErrExpr)
 			}
 		}
 	}
 	readsOf(t, []api.Token{word("TRUE")}, 0, parts(of(api.TBool, 1)), 1)
 	readsOf(t, []api.Token{word("FALSE")}, 0, parts(of(api.TBool, 0)), 1)
+}
+
+// 6.1, R2: behind the . of a field a word is one, whatever its letters are
+func TestParseOfFields(t *testing.T) {
+	for _, s := range []string{"", "q", "aB", "5", "5A", "A B", "É", "A\xff", ".", "+", "(", "true", "not", strings.Repeat("A", 24), strings.Repeat("A", 25), strings.Repeat("q", 100000)} {
+		one := []api.Token{word("T"), sign("."), word(s)}
+		readsOf(t, one, 0, parts(field("T", s)), 3)
+		readsOf(t, joined(tokens("a not"), one, tokens("and"), one, tokens(";")), 1, parts(field("T", s), op(api.NNot), field("T", s), op(api.NAnd)), 9)
+		readsOf(t, joined(one, []api.Token{sign("."), word(s)}), 0, parts(field("T", s)), 3)
+		for _, kind := range []int{-1, 0, api.KEnd, api.KNum, api.KSign, 5} {
+			refuses(t, []api.Token{word("T"), sign("."), {Kind: kind, S: s}}, 0, 2, api.ErrExpr)
+		}
+	}
+}
+
+// 6.1, R2: numbers and fields that Check refuses are as many and as deep as others
+func TestLimitsWithWhatIsHandedIn(t *testing.T) {
+	for _, c := range []struct {
+		l []api.Token
+		p api.Part
+	}{
+		{[]api.Token{numberOf(api.TBool, 2)}, of(api.TBool, 2)}, {[]api.Token{numberOf(9, 1)}, of(9, 1)}, {[]api.Token{number(1 << 40)}, num(1 << 40)}, {[]api.Token{word("T"), sign("."), word("q")}, field("T", "q")},
+	} {
+		if e := expr.Check(parts(c.p)); e != api.ErrExpr {
+			t.Errorf("Check(%v) = %d", c.p, e)
+		}
+		for n := 1; n <= 30; n++ {
+			if l := joined(times("not", n-1), c.l); n > api.MaxDepth {
+				refuses(t, l, 0, 0, api.ErrLong)
+				refuses(t, joined(tokens("a b"), l), 2, 2, api.ErrLong)
+			} else {
+				readsOf(t, l, 0, append(parts(c.p), slices.Repeat(parts(op(api.NNot)), n-1)...), len(l))
+			}
+		}
+		just := joined(tokens("not ("), bracketed(wide(250)), tokens(")"))
+		place := slices.IndexFunc(just, func(k api.Token) bool { return expr.Name(k.S) })
+		just = joined(just[:place], c.l, just[place+1:])
+		if x, next, f := expr.Parse(just, 0); f != none || next != len(just) || len(x) != 500 || x[0] != c.p {
+			t.Errorf("Parse(%.300q) = %.300s, %d, %v", plain(just), behind(x), next, f)
+		}
+		refuses(t, joined(tokens("-"), just), 0, 0, api.ErrLong)
+		refuses(t, joined(times("1 +", 600), c.l), 0, 0, api.ErrLong)
+		refuses(t, joined(times("(", 201), c.l), 0, 200, api.ErrLong)
+		refuses(t, joined(c.l, tokens("+")), 0, len(c.l)+1, api.ErrExpr)
+	}
 }
 
 // joined answers all of the lists, one behind the other.
@@ -421,6 +465,7 @@ func TestFirstErrorOfParse(t *testing.T) {
 
 // randomTokens answers tokens that are mostly an expression.
 func randomTokens(r *rand.Rand, n int) []api.Token {
+	odd := []api.Token{numberOf(api.TBool, 2), numberOf(9, 1), number(-1 << 40), word("q"), word("")}
 	values := []string{"A", "B", "5", "INT#7", "TRUE", "FALSE", "T . Q", "T . IF", "A [ 1 ]", "TO_INT ( A )"}
 	openings := []string{"(", "(", "A [", "TO_INT (", "TO_TIME (", "-", "NOT", "NOT"}
 	var l []api.Token
@@ -431,6 +476,12 @@ func randomTokens(r *rand.Rand, n int) []api.Token {
 		case r.Intn(50) == 0:
 			some := []string{")", "]", "(", "[", ".", "AND", "-", "A", "5", "NOT", "TO_INT", "IF", ";", "&", "TRUE"}
 			l = append(l, tokens(some[r.Intn(len(some))])...)
+		case value && r.Intn(30) == 0:
+			l = append(l, word("T"), sign("."), odd[3+r.Intn(2)])
+			value = false
+		case r.Intn(60) == 0:
+			l = append(l, odd[r.Intn(len(odd))])
+			value = false
 		case value && r.Intn(5) < 2:
 			o := openings[r.Intn(len(openings))]
 			l = append(l, tokens(o)...)
@@ -467,8 +518,8 @@ func same(t *testing.T, l []api.Token, at int) bool {
 	if !slices.Equal(x, wx) || n != wn || f != wf {
 		t.Fatalf("Parse(%q, %d) = %v, %d, %v, want %v, %d, %v", plain(l), at, x, n, f, wx, wn, wf)
 	}
-	if f == none && expr.Check(x) != api.OK {
-		t.Fatalf("Parse(%q, %d) answers %v, which Check refuses", plain(l), at, x)
+	if e := expr.Check(x); f == none && e != refCheck(x) {
+		t.Fatalf("Parse(%q, %d) answers %v, of which Check answers %d", plain(l), at, x, e)
 	}
 	return f == none
 }
@@ -494,7 +545,7 @@ func TestParseAgainstTheReference(t *testing.T) {
 
 // 6.1: all lists of up to 4 of these tokens
 func TestParseOfShortLists(t *testing.T) {
-	some := joined(tokens("A 5 TRUE NOT - + * AND & < ( ) [ ] . TO_INT IF ;"), []api.Token{numberOf(api.TInt, 40000), {Kind: api.KEnd}})
+	some := joined(tokens("A 5 TRUE NOT - + * AND & < ( ) [ ] . TO_INT IF ;"), []api.Token{numberOf(api.TInt, 40000), word("q"), {Kind: api.KEnd}})
 	var try func(l []api.Token)
 	try = func(l []api.Token) {
 		same(t, l, 0)

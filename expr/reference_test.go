@@ -123,7 +123,7 @@ func (r *refReader) value() (whole bool, e api.Errno) {
 		return sure(r.push(refEntry{unary: true, part: api.Part{Kind: api.POp, N: api.NNeg}}))
 	case t.Kind == api.KWord && t.S == "NOT":
 		return sure(r.push(refEntry{unary: true, part: api.Part{Kind: api.POp, N: api.NNot}}))
-	case t.Kind == api.KNum && refNumber(t.Type, t.N):
+	case t.Kind == api.KNum:
 		return done(1, api.Part{Kind: api.PNum, N: t.N, T: t.Type})
 	case t.Kind == api.KWord && t.S == "TRUE":
 		return done(1, api.Part{Kind: api.PNum, N: 1, T: api.TBool})
@@ -144,7 +144,7 @@ func (r *refReader) value() (whole bool, e api.Errno) {
 		if b.Kind != api.KSign || b.S != "." {
 			return done(1, api.Part{Kind: api.PVar, S: t.S})
 		}
-		if f.Kind != api.KWord || !refWord.MatchString(f.S) {
+		if f.Kind != api.KWord {
 			r.i += 2
 			return false, api.ErrExpr
 		}
