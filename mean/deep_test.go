@@ -140,3 +140,24 @@ func balanced(n int, o int64, leaf api.Part) []api.Part {
 	}
 	return append(append(balanced(n/2, o, leaf), balanced(n-n/2, o, leaf)...), op(o))
 }
+
+// 17.1: a chain of as many statements as there may be: the last one is done, or the first one
+func TestLongChain(t *testing.T) {
+	chain := "if b then" + strings.Repeat(" elsif b then", 398)
+	for last, text := range map[string]string{
+		" else n := 1; end_if;":     "800 n=1, 801 done",
+		" elsif b then end_if;":     "801 done",
+		" elsif not b then end_if;": "802 done",
+		" else return; end_if;":     "799 done",
+		" else n := 7 / 0; end_if;": "801 zero",
+	} {
+		p, r := program(chain+last), trailOf(text)
+		for _, budget := range []int{0, 1, 2, 3, 797, 798, r.last - 2, r.last - 1, r.last, r.last + 1} {
+			ends(t, p, cellsOf(""), 0, budget, r.end(cellsOf(""), budget))
+		}
+		r = trailOf("4 done")
+		for budget := range 6 {
+			ends(t, p, cellsOf("b=1"), 0, budget, r.end(cellsOf("b=1"), budget))
+		}
+	}
+}
